@@ -35,14 +35,11 @@ func number(n int) api.Value {
 
 // FromValue reads a format from an object.
 func FromValue(v api.Value) (api.Format, api.Errno) {
-	if !isObject(v) {
+	if !value.Valid(v) || !isObject(v) {
 		return api.Format{}, api.ErrKind
 	}
 	f := api.Format{Media: v.N}
 	for i, kid := range v.Kids {
-		if !isChoice(kid) {
-			return api.Format{}, api.ErrKind
-		}
 		f.Fields = append(f.Fields, api.Field{Key: v.Keys[i], Choice: valueChoice(kid)})
 	}
 	if !Valid(f) {
@@ -51,44 +48,17 @@ func FromValue(v api.Value) (api.Format, api.Errno) {
 	return f, api.OK
 }
 
-// isObject reports whether a value is an object with the type and the keys of a format.
+// isObject reports whether a valid value is an object with the type and the keys of a format, and choices alone.
 func isObject(v api.Value) bool {
-	if v.Kind != api.VObject || v.S != "" || !isMedia(v.N) || len(v.Keys) != len(v.Kids) {
+	if v.Kind != api.VObject || !isMedia(v.N) {
 		return false
 	}
-	for i, key := range v.Keys {
-		if !isKey(key) || i > 0 && key <= v.Keys[i-1] {
+	for i, kid := range v.Kids {
+		if !isKey(v.Keys[i]) || kid.Kind != api.VChoice {
 			return false
 		}
 	}
 	return true
-}
-
-// isChoice reports whether a value is a choice of as many numbers as its kind has, whatever they are.
-func isChoice(v api.Value) bool {
-	if v.Kind != api.VChoice || v.S != "" || len(v.Keys) > 0 || !countFits(v.N, len(v.Kids)) {
-		return false
-	}
-	for _, kid := range v.Kids {
-		if kid.Kind != api.VInt || !value.Valid(kid) {
-			return false
-		}
-	}
-	return true
-}
-
-func countFits(kind, count int) bool {
-	switch kind {
-	case api.COne:
-		return count == 1
-	case api.CEnum:
-		return count >= 2
-	case api.CRange:
-		return count == 3
-	case api.CStep:
-		return count == 4
-	}
-	return false
 }
 
 func valueChoice(v api.Value) api.Choice {

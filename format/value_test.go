@@ -2,6 +2,7 @@ package format_test
 
 import (
 	"math"
+	"slices"
 	"testing"
 
 	"continuo/api"
@@ -106,25 +107,57 @@ func TestFromValueKind(t *testing.T) {
 	}
 }
 
+// What layer 1 does not have as a value is something else, whatever numbers it holds.
+func TestFromValueNoValue(t *testing.T) {
+	five, below := choiceOf(api.COne, 5), choiceOf(api.COne, -1)
+	for name, v := range map[string]api.Value{
+		"list without its default":  choiceOf(api.CEnum, 0, 1),
+		"list of others":            choiceOf(api.CEnum, 5, 4, 6),
+		"list twice":                choiceOf(api.CEnum, 5, 5, 5),
+		"list twice behind":         choiceOf(api.CEnum, 5, 5, 4, 6, 4),
+		"list of others, below 0":   choiceOf(api.CEnum, 5, -1),
+		"list of 21 twice":          choiceOf(api.CEnum, append([]int{1, 1}, upTo(20)...)...),
+		"list of 21 others":         choiceOf(api.CEnum, append([]int{0}, upTo(21)...)...),
+		"range upside down":         choiceOf(api.CRange, 5, 9, 1),
+		"range with default above":  choiceOf(api.CRange, 10, 1, 9),
+		"range with default below":  choiceOf(api.CRange, 0, 1, 9),
+		"range upside down, beyond": choiceOf(api.CRange, 5, api.MaxTime+1, -1),
+		"step 0":                    choiceOf(api.CStep, 5, 1, 9, 0),
+		"step below 0":              choiceOf(api.CStep, 5, 5, 9, -4),
+		"default between steps":     choiceOf(api.CStep, 6, 1, 9, 4),
+		"default above the steps":   choiceOf(api.CStep, 13, 1, 9, 4),
+		"default below the steps":   choiceOf(api.CStep, 1, 5, 9, 4),
+		"steps upside down":         choiceOf(api.CStep, 5, 9, 1, 2),
+		"between steps of 1,001":    choiceOf(api.CStep, 2, 1, 9000, 1001),
+		"all bounds":                choiceOf(api.CStep, math.MaxInt, math.MinInt, math.MaxInt, math.MinInt),
+	} {
+		for _, x := range []api.Value{
+			object(1, []int{2}, v), object(3, []int{1, 6}, five, v), object(2, []int{1, 6}, v, five),
+			object(1, []int{1, 2}, below, v), object(1, []int{1, 2}, v, below),
+		} {
+			if f, e := format.FromValue(x); !isZero(f) || e != api.ErrKind {
+				t.Errorf("%s: %v, %d", name, f, e)
+			}
+		}
+	}
+}
+
+// Layer 1 has these values, but their numbers make no valid format.
 func TestFromValueInvalid(t *testing.T) {
 	for name, v := range map[string]api.Value{
 		"one below 0":             choiceOf(api.COne, -1),
 		"one above MaxTime":       choiceOf(api.COne, api.MaxTime+1),
 		"list with a number less": choiceOf(api.CEnum, 5, 5, -1),
 		"list with a greater one": choiceOf(api.CEnum, 5, 5, api.MaxTime+1),
-		"list twice":              choiceOf(api.CEnum, 5, 5, 5),
-		"list of others":          choiceOf(api.CEnum, 5, 4, 6),
 		"list of 21":              choiceOf(api.CEnum, append([]int{1}, upTo(21)...)...),
-		"list of 600":             choiceOf(api.CEnum, append([]int{1}, upTo(600)...)...),
 		"range below 0":           choiceOf(api.CRange, 5, -1, 9),
 		"range above MaxTime":     choiceOf(api.CRange, 5, 1, api.MaxTime+1),
-		"range without default":   choiceOf(api.CRange, 10, 1, 9),
-		"range upside down":       choiceOf(api.CRange, 5, 9, 1),
-		"step 0":                  choiceOf(api.CStep, 5, 1, 9, 0),
+		"range of all":            choiceOf(api.CRange, 5, math.MinInt, math.MaxInt),
+		"steps below 0":           choiceOf(api.CStep, 5, -1, 9, 2),
+		"steps above MaxTime":     choiceOf(api.CStep, 5, 1, api.MaxTime+1, 2),
 		"step 1,001":              choiceOf(api.CStep, 1, 1, 9000, 1001),
-		"step below 0":            choiceOf(api.CStep, 5, 5, 9, -4),
-		"default between steps":   choiceOf(api.CStep, 6, 1, 9, 4),
-		"all bounds":              choiceOf(api.CStep, math.MaxInt, math.MinInt, math.MaxInt, math.MinInt),
+		"step 1,001, one number":  choiceOf(api.CStep, 1, 1, 1, 1001),
+		"steps of all":            choiceOf(api.CStep, math.MaxInt, math.MinInt, math.MaxInt, 1),
 	} {
 		for _, x := range []api.Value{object(1, []int{2}, v), object(3, []int{1, 6}, choiceOf(api.COne, 5), v)} {
 			if f, e := format.FromValue(x); !isZero(f) || e != api.ErrInvalid {
@@ -132,6 +165,59 @@ func TestFromValueInvalid(t *testing.T) {
 			}
 		}
 	}
+}
+
+// The object, its choice, the default and 497 alternatives are just MaxValues values.
+func TestFromValueMostValues(t *testing.T) {
+	for _, x := range []struct {
+		alternatives int
+		e            api.Errno
+	}{{20, api.OK}, {21, api.ErrInvalid}, {api.MaxValues - 3, api.ErrInvalid}, {api.MaxValues - 2, api.ErrKind}, {600, api.ErrKind}} {
+		v := object(1, []int{2}, choiceOf(api.CEnum, append([]int{1}, upTo(x.alternatives)...)...))
+		if _, e := format.FromValue(v); e != x.e {
+			t.Errorf("%d alternatives: %d, not %d", x.alternatives, e, x.e)
+		}
+	}
+}
+
+// All choices of up to four numbers out of a few: ErrKind goes by layer 1, ErrInvalid by the choices of layer 2.
+func TestFromValueByBothLayers(t *testing.T) {
+	few := []int{-1, 0, 1, 2, 1000, 1001, api.MaxTime, api.MaxTime + 1}
+	lists := [][]int{nil}
+	for i := 0; len(lists[i]) < 4; i++ {
+		for _, n := range few {
+			lists = append(lists, append(slices.Clone(lists[i]), n))
+		}
+	}
+	told := map[api.Errno]int{}
+	for kind := 0; kind <= api.CStep+1; kind++ {
+		for _, list := range lists {
+			v := object(api.MAudio, []int{api.KRate}, choiceOf(kind, list...))
+			f, want := api.Format{}, api.ErrKind
+			if value.Valid(v) {
+				f, want = meantBy(kind, list)
+			}
+			if g, e := format.FromValue(v); !format.Same(f, g) || e != want {
+				t.Errorf("kind %d, %v: %v, %d, not %d", kind, list, g, e, want)
+			}
+			told[want]++
+		}
+	}
+	if told[api.OK] < 100 || told[api.ErrInvalid] < 100 || told[api.ErrKind] < 100 {
+		t.Errorf("too few of some: %v", told)
+	}
+}
+
+// meantBy returns the format with the choice of a list of numbers, the default first, that layer 1 has.
+func meantBy(kind int, numbers []int) (api.Format, api.Errno) {
+	c := api.Choice{Kind: kind, Default: numbers[0], List: numbers[1:]}
+	if kind == api.COne {
+		c.List = numbers
+	}
+	if !format.ValidChoice(c) {
+		return api.Format{}, api.ErrInvalid
+	}
+	return audio(c), api.OK
 }
 
 // A value that holds itself is something else, too.
